@@ -77,6 +77,11 @@ func boundedText(t tree) (string, bool) {
 	return treeText(t), true
 }
 
+// isLetter reports whether a text is a letter that a node may have.
+func isLetter(s string) bool {
+	return len(s) == 1 && s[0] >= 'a' && s[0] <= 'h'
+}
+
 // treeReader reads a tree from the left to the right. It counts on the way, so
 // that it gives up at the first leaf or node too many: the nodes that it may
 // be in at one time, and so its recursion, are bounded for every text.
@@ -139,7 +144,7 @@ func (r *treeReader) node() (tree, bool) {
 }
 
 func (r *treeReader) letter() (string, bool) {
-	if r.at == len(r.text) || r.text[r.at] < 'a' || r.text[r.at] > 'h' {
+	if r.at == len(r.text) || !isLetter(r.text[r.at:r.at+1]) {
 		return "", false
 	}
 	r.at++
