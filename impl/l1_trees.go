@@ -68,10 +68,16 @@ func treeText(t tree) string {
 	return out.String()
 }
 
+// isBounded reports whether a tree that was made of others has not become
+// greater than a tree may be.
+func isBounded(t tree) bool {
+	return t.leaves() <= LeavesMax && t.nodes() <= NodesMax
+}
+
 // boundedText returns the text of a tree that was made of others, or false if
 // it has become greater than a tree may be.
 func boundedText(t tree) (string, bool) {
-	if t.leaves() > LeavesMax || t.nodes() > NodesMax {
+	if !isBounded(t) {
 		return "", false
 	}
 	return treeText(t), true
