@@ -99,14 +99,20 @@ func joinOf(p, q map[string]string, v int) (string, bool) {
 	return text, true
 }
 
-// putOf returns a tree with another one put for a pattern that stands at a
-// place, and whether this is a tree.
-func putOf(s string, place impl.Place, by string) (string, bool) {
+// putText returns a tree with another one put for a pattern that stands at a
+// place, also if this is too large.
+func putText(s string, place impl.Place, by string) string {
 	for k := len(place.Parts) - 1; k >= 0; k-- {
 		by = graftText(by, k, place.Parts[k])
 	}
 	from, to := partText(s, place.Node)
-	text := s[:from] + by + s[to:]
+	return s[:from] + by + s[to:]
+}
+
+// putOf returns a tree with another one put for a pattern that stands at a
+// place, and whether this is a tree.
+func putOf(s string, place impl.Place, by string) (string, bool) {
+	text := putText(s, place, by)
 	if !isTree(text) {
 		return "", false
 	}
